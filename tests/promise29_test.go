@@ -80,3 +80,96 @@ func TestSplitStringGivesNewMemory(t *testing.T) {
 		t.Errorf("split to %q, %v", second, ok)
 	}
 }
+
+// useMap calls every function of chapter 2 with the map.
+func useMap(m impl.Map) {
+	impl.IsMap(m)
+	for cell := -2; cell < 50; cell++ {
+		impl.CellsNextTo(m, cell)
+		impl.StepTime(m, cell, cell+1)
+		impl.StepTime(m, cell, cell-m.Width)
+	}
+	impl.OpenParts(m)
+	impl.HighestCell(m)
+	impl.MirrorMap(m)
+	impl.TurnMap(m)
+	impl.MapText(m)
+}
+
+func TestMapFunctionsModifyNothing(t *testing.T) {
+	for _, m := range append(variedMaps(), invalidMaps()...) {
+		rise := append(slices.Clone(m.Rise), 77, 78)
+		cost := append(slices.Clone(m.Cost), 79, 80)
+		given := impl.Map{Width: m.Width, Height: m.Height, Rise: rise[:len(m.Rise)], Cost: cost[:len(m.Cost)]}
+		useMap(given)
+		if !sameMap(given, m) || !slices.Equal(rise[len(m.Rise):], []int{77, 78}) || !slices.Equal(cost[len(m.Cost):], []int{79, 80}) {
+			t.Errorf("%v changed to %v", m, given)
+		}
+	}
+}
+
+// spoil changes a slice up to its capacity.
+func spoil(l []int) {
+	l = l[:cap(l)]
+	for i := range l {
+		l[i] = -99
+	}
+}
+
+func TestMapFunctionsGiveNewMemory(t *testing.T) {
+	for _, m := range variedMaps() {
+		before := copyMap(m)
+		for name, change := range map[string]func(impl.Map) (impl.Map, bool){"mirrored": impl.MirrorMap, "turned": impl.TurnMap} {
+			got, _ := change(m)
+			want := copyMap(got)
+			spoil(got.Rise)
+			if !slices.Equal(got.Cost, want.Cost) || !sameMap(m, before) {
+				t.Error("shared memory in what is", name)
+			}
+			spoil(got.Cost)
+			if again, _ := change(m); !sameMap(m, before) || !sameMap(again, want) {
+				t.Error("shared memory in what is", name)
+			}
+		}
+		for cell := range m.Cost {
+			next, _ := impl.CellsNextTo(m, cell)
+			want := slices.Clone(next)
+			spoil(next)
+			if again, _ := impl.CellsNextTo(m, cell); !slices.Equal(again, want) || !sameMap(m, before) {
+				t.Error("shared memory in the cells next to", cell)
+			}
+		}
+	}
+}
+
+func TestOpenPartsShareNoMemory(t *testing.T) {
+	for _, m := range variedMaps() {
+		before := copyMap(m)
+		want, _ := impl.OpenParts(m)
+		got, _ := impl.OpenParts(m)
+		for i := range got {
+			spoil(got[i])
+			for j := i + 1; j < len(got); j++ {
+				if !slices.Equal(got[j], want[j]) {
+					t.Fatalf("the parts %d and %d of %v share memory", i, j, m)
+				}
+			}
+		}
+		if again, _ := impl.OpenParts(m); !sameMap(m, before) || !slices.EqualFunc(again, want, slices.Equal) {
+			t.Fatalf("the parts of %v share memory", m)
+		}
+	}
+}
+
+func TestParseMapReturnsForAllArguments(t *testing.T) {
+	for _, s := range append(oddStrings(), strings.Repeat("##\n", 40000), strings.Repeat("\n", 200), "##"+strings.Repeat(" ##", 36)+"\n") {
+		if m, ok := impl.ParseMap(s); ok || !isZeroMap(m) {
+			t.Errorf("ParseMap of %d bytes = %v, %v", len(s), m, ok)
+		}
+	}
+	m, _ := impl.ParseMap("10 20\n30 40\n")
+	spoil(m.Rise)
+	if !slices.Equal(m.Cost, []int{1, 2, 3, 4}) {
+		t.Error("the parsed slices share memory")
+	}
+}

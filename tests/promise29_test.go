@@ -173,3 +173,37 @@ func TestParseMapReturnsForAllArguments(t *testing.T) {
 		t.Error("the parsed slices share memory")
 	}
 }
+
+func TestFeatureFunctionsReturnForAllArguments(t *testing.T) {
+	for _, s := range append(oddStrings(), strings.Repeat(" ", 5000), strings.Repeat(" side ", 5000), "44 pit side "+strings.Repeat("x", 5000)) {
+		if f, ok := impl.ParseFeature(s); ok || f != (impl.Feature{}) {
+			t.Errorf("ParseFeature of %d bytes = %v, %v", len(s), f, ok)
+		}
+		for _, f := range []impl.Feature{{Code: 31, Which: s, What: "pit"}, {Code: 31, What: s}, {Code: 31, What: "pit", Look: s}, {Code: 31, What: "pit", Side: s}} {
+			text, ok := impl.FeatureText(f)
+			if ok != (s == "" && f.What != "") || !ok && text != "" {
+				t.Errorf("FeatureText = %q, %v", text, ok)
+			}
+		}
+	}
+}
+
+func TestFeatureListsAreNotModified(t *testing.T) {
+	for count := range 23 {
+		before := sheetOfCodes(count)
+		all := append(sheetOfCodes(count), impl.Feature{Code: 31, What: "beyond"}, impl.Feature{Code: 32})
+		sheet, ok := impl.SheetText(all[:count])
+		counts, fine := impl.CountFamilies(all[:count])
+		if !slices.Equal(all[:count], before) || all[count].What != "beyond" || all[count+1].Code != 32 {
+			t.Errorf("%d Features changed to %v", count, all)
+		}
+		// What is beyond the length is invalid, so that reading it would make the functions fail.
+		if want := count <= 20; ok != want || fine != want {
+			t.Errorf("%d Features: %q, %v, %v, %v", count, sheet, ok, counts, fine)
+		}
+		spoil(counts)
+		if again, _ := impl.CountFamilies(all[:count]); fine && slices.Contains(again, -99) {
+			t.Error("the counts share memory")
+		}
+	}
+}

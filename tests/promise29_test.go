@@ -207,3 +207,86 @@ func TestFeatureListsAreNotModified(t *testing.T) {
 		}
 	}
 }
+
+// useRoutes calls every function of chapter 4 with the map and lists of its cells.
+func useRoutes(m impl.Map, lists [][]int) {
+	for _, list := range lists {
+		impl.IsRoute(m, list)
+		impl.RouteTime(m, list)
+		impl.RouteClimb(m, list)
+	}
+	for _, a := range []int{-1, 0, 1, 2, 5, 8, 14, 35, 36, math.MaxInt, math.MinInt} {
+		impl.CellsWithin(m, a, 7)
+		impl.FarthestCell(m, a)
+		for _, b := range []int{-1, 0, 1, 3, 7, 20, 35, math.MaxInt, math.MinInt} {
+			impl.LeastTime(m, a, b)
+			impl.BestRoute(m, a, b)
+			impl.DetourTime(m, a, 1, b)
+			impl.DetourTime(m, a, b, 1)
+			impl.CrossedBy(m, a, b, 2)
+			impl.CrossedBy(m, a, 0, b)
+		}
+	}
+}
+
+func TestRouteFunctionsModifyNothing(t *testing.T) {
+	for _, m := range append(routeMaps(), invalidMaps()...) {
+		rise := append(slices.Clone(m.Rise), 77, 78)
+		cost := append(slices.Clone(m.Cost), 79, 80)
+		given := impl.Map{Width: m.Width, Height: m.Height, Rise: rise[:len(m.Rise)], Cost: cost[:len(m.Cost)]}
+		all := [][]int{nil, {0}, {0, 1, 2, 3, 4, 5}, {5, 4, 3, 2, 1, 0}, {0, 0}, {3, 1, 2}, {-1, 36, math.MaxInt, math.MinInt}}
+		lists := [][]int{}
+		for _, list := range all {
+			lists = append(lists, slices.Clone(list))
+		}
+		useRoutes(given, lists)
+		if !sameMap(given, m) || !slices.Equal(rise[len(m.Rise):], []int{77, 78}) || !slices.Equal(cost[len(m.Cost):], []int{79, 80}) {
+			t.Errorf("%v changed to %v", m, given)
+		}
+		if !slices.EqualFunc(lists, all, slices.Equal) {
+			t.Errorf("the lists changed to %v", lists)
+		}
+	}
+}
+
+func TestRouteFunctionsReadNothingBeyondTheLength(t *testing.T) {
+	m := flatMap(3, 3)
+	all := []int{0, 1, 2, 2, 99}
+	for length := 1; length <= 3; length++ {
+		if is, ok := impl.IsRoute(m, all[:length]); !is || !ok {
+			t.Errorf("IsRoute(%v) = %v, %v", all[:length], is, ok)
+		}
+		if n, ok := impl.RouteTime(m, all[:length]); n != length-1 || !ok {
+			t.Errorf("RouteTime(%v) = %v, %v", all[:length], n, ok)
+		}
+		if n, ok := impl.RouteClimb(m, all[:length]); n != 0 || !ok {
+			t.Errorf("RouteClimb(%v) = %v, %v", all[:length], n, ok)
+		}
+	}
+	if is, ok := impl.IsRoute(m, all[:0]); is || !ok {
+		t.Error("an empty list is a route", is, ok)
+	}
+	if !slices.Equal(all, []int{0, 1, 2, 2, 99}) {
+		t.Error("the list changed to", all)
+	}
+}
+
+func TestRouteFunctionsGiveNewMemory(t *testing.T) {
+	for _, m := range routeMaps() {
+		before := copyMap(m)
+		for a := range m.Cost {
+			b := len(m.Cost) - 1 - a
+			for name, list := range map[string]func() ([]int, bool){
+				"BestRoute":   func() ([]int, bool) { return impl.BestRoute(m, a, b) },
+				"CellsWithin": func() ([]int, bool) { return impl.CellsWithin(m, a, 20) },
+			} {
+				got, _ := list()
+				want := slices.Clone(got)
+				spoil(got)
+				if again, _ := list(); !slices.Equal(again, want) || !sameMap(m, before) {
+					t.Error("shared memory in the result of", name)
+				}
+			}
+		}
+	}
+}

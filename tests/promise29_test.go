@@ -290,3 +290,126 @@ func TestRouteFunctionsGiveNewMemory(t *testing.T) {
 		}
 	}
 }
+
+// useRunners calls every function of chapter 5 that takes a list.
+func useRunners(list []impl.Runner) {
+	impl.AreRunners(list)
+	impl.ClubsOf(list)
+	impl.BiggestClub(list)
+	for _, n := range append([]int{0, 1, 5, 9, 10, 19, 120, 815, 9999}, farNumbers...) {
+		impl.RunnerWithCard(list, n)
+		impl.AddRunner(list, sampleRunner(500, n))
+		impl.AddRunner(list, impl.Runner{Id: n, Name: "ann", Club: "hill", Born: 1990})
+		impl.SwapCards(list, n, 1)
+		impl.SwapCards(list, 9, n)
+		impl.RunnersAged(list, 0, n)
+		impl.RunnersAged(list, n, 120)
+	}
+	for _, club := range wordsAndOthers {
+		impl.ClubMembers(list, club)
+	}
+}
+
+func TestRunnerFunctionsModifyNothing(t *testing.T) {
+	beyond := impl.Runner{Id: -1, Name: "Beyond", Card: 77}
+	for count := range 13 {
+		for first := range count + 1 {
+			all := append(people(count), beyond, beyond)
+			// With two Runners exchanged the list is not valid.
+			all[0], all[first] = all[first], all[0]
+			before := slices.Clone(all)
+			useRunners(all[:count])
+			if !slices.Equal(all, before) {
+				t.Errorf("%v changed to %v", before, all)
+			}
+		}
+	}
+}
+
+func TestRunnerFunctionsReadNothingBeyondTheLength(t *testing.T) {
+	all := people(10)
+	for length := range all {
+		list := all[:length]
+		short := slices.Clip(slices.Clone(list))
+		for _, r := range all {
+			x, ok := impl.RunnerWithCard(list, r.Card)
+			if want, used := impl.RunnerWithCard(short, r.Card); x != want || ok != used {
+				t.Errorf("the Card %d of %d: %v, %v", r.Card, length, x, ok)
+			}
+			a, ok := impl.AddRunner(list, r)
+			if want, valid := impl.AddRunner(short, r); !slices.Equal(a, want) || ok != valid {
+				t.Errorf("%v added to %d: %v, %v", r, length, a, ok)
+			}
+			a, ok = impl.SwapCards(list, all[0].Id, r.Id)
+			if want, valid := impl.SwapCards(short, all[0].Id, r.Id); !slices.Equal(a, want) || ok != valid {
+				t.Errorf("the Card of %v swapped in %d: %v, %v", r, length, a, ok)
+			}
+			ids, _ := impl.ClubMembers(list, r.Club)
+			if want, _ := impl.ClubMembers(short, r.Club); !slices.Equal(ids, want) {
+				t.Errorf("the members of %q in %d: %v", r.Club, length, ids)
+			}
+		}
+		ids, _ := impl.RunnersAged(list, 0, 120)
+		clubs, _ := impl.ClubsOf(list)
+		want, _ := impl.ClubsOf(short)
+		_, most, _ := impl.BiggestClub(list)
+		_, wanted, _ := impl.BiggestClub(short)
+		if len(ids) != length || !slices.Equal(clubs, want) || most != wanted {
+			t.Errorf("%d Runners: %v, %q, %d", length, ids, clubs, most)
+		}
+	}
+}
+
+func TestRunnerFunctionsGiveNewMemory(t *testing.T) {
+	for count := range 11 {
+		// The list has room, into which a function could write what it adds.
+		list := append(make([]impl.Runner, 0, 20), people(count)...)
+		before := slices.Clone(list)
+		for name, change := range map[string]func() ([]impl.Runner, bool){
+			"AddRunner at the end": func() ([]impl.Runner, bool) { return impl.AddRunner(list, sampleRunner(900, 3)) },
+			"AddRunner before":     func() ([]impl.Runner, bool) { return impl.AddRunner(list, sampleRunner(8, 3)) },
+			"SwapCards":            func() ([]impl.Runner, bool) { return impl.SwapCards(list, 1, 9) },
+		} {
+			got, _ := change()
+			want := slices.Clone(got)
+			got = got[:cap(got)]
+			for i := range got {
+				got[i] = impl.Runner{Id: -99, Name: "spoilt"}
+			}
+			if again, _ := change(); !slices.Equal(again, want) || !slices.Equal(list, before) {
+				t.Errorf("%s shares memory with a list of %d", name, count)
+			}
+		}
+		for name, ids := range map[string]func() ([]int, bool){
+			"ClubMembers": func() ([]int, bool) { return impl.ClubMembers(list, "fen") },
+			"RunnersAged": func() ([]int, bool) { return impl.RunnersAged(list, 0, 120) },
+		} {
+			got, _ := ids()
+			want := slices.Clone(got)
+			spoil(got)
+			if again, _ := ids(); !slices.Equal(again, want) {
+				t.Errorf("%s shares memory", name)
+			}
+		}
+		clubs, _ := impl.ClubsOf(list)
+		want := slices.Clone(clubs)
+		clear(clubs[:cap(clubs)])
+		if again, _ := impl.ClubsOf(list); !slices.Equal(again, want) || !slices.Equal(list, before) {
+			t.Error("ClubsOf shares memory")
+		}
+	}
+}
+
+func TestRunnerTextsReturnForAllArguments(t *testing.T) {
+	for _, s := range append(oddStrings(), strings.Repeat(" ", 5000), strings.Repeat("7 ann of hill 1990 w ", 1000), "7 ann of hill 1990 w card "+strings.Repeat("9", 5000)) {
+		if r, ok := impl.ParseRunner(s); ok || r != (impl.Runner{}) {
+			t.Errorf("ParseRunner of %d bytes = %v, %v", len(s), r, ok)
+		}
+		for _, n := range farNumbers {
+			r := impl.Runner{Id: n, Name: s, Club: s, Born: n, Card: n}
+			if text, ok := impl.RunnerText(r); ok || text != "" || impl.IsRunner(r) {
+				t.Errorf("RunnerText = %q, %v", text, ok)
+			}
+		}
+	}
+}

@@ -91,6 +91,12 @@ func rejectsRunners(t *testing.T, list []impl.Runner) {
 			t.Errorf("SwapCards(%v, %d, %d) = %v, %v", list, r.Id, list[0].Id, x, ok)
 		}
 	}
+	// An invalid list fails for a text that is nobody's Club, too, be it a word or not.
+	for _, club := range []string{"nobody", "", "Hill", "two words", "abcdefghijk"} {
+		if ids, ok := impl.ClubMembers(list, club); ok || len(ids) != 0 {
+			t.Errorf("ClubMembers(%v, %q) = %v, %v", list, club, ids, ok)
+		}
+	}
 	if x, ok := impl.AddRunner(list, sampleRunner(500, 7777)); ok || len(x) != 0 {
 		t.Errorf("AddRunner(%v) = %v, %v", list, x, ok)
 	}
@@ -502,15 +508,52 @@ func TestClubsWithEqualNumbersOfMembers(t *testing.T) {
 	}
 }
 
-func TestClubMembersOfStrangeClubs(t *testing.T) {
+// checkMembers compares ClubMembers with a search by equality, for a valid list and any text.
+func checkMembers(t *testing.T, list []impl.Runner, club string) {
+	t.Helper()
+	want := []int{}
+	for _, r := range list {
+		if r.Club == club {
+			want = append(want, r.Id)
+		}
+	}
+	if ids, ok := impl.ClubMembers(list, club); !ok || !slices.Equal(ids, want) {
+		t.Errorf("ClubMembers(%v, %q) = %v, %v", list, club, ids, ok)
+	}
+}
+
+func TestClubMembersOfAnyText(t *testing.T) {
 	for count := range 11 {
+		list := people(count)
 		for _, club := range wordsAndOthers {
-			list := people(count)
-			ids, ok := impl.ClubMembers(list, club)
-			if ok != lowerWord.MatchString(club) || len(ids) != 0 {
+			checkMembers(t, list, club)
+		}
+		// Only the same bytes are the same Club: not those with a byte changed, added or removed.
+		for _, club := range []string{"hill", "fen", "oak", "hi", "hillside"} {
+			for place := range len(club) + 1 {
+				for c := range 256 {
+					checkMembers(t, list, club[:place]+string([]byte{byte(c)})+club[place:])
+					checkMembers(t, list, club[:place]+string([]byte{byte(c)})+club[min(place+1, len(club)):])
+				}
+				checkMembers(t, list, club[:place])
+				checkMembers(t, list, club[place:])
+			}
+			checkMembers(t, list, strings.ToUpper(club))
+		}
+	}
+}
+
+func TestClubMembersOfTextsThatAreNoWords(t *testing.T) {
+	ann := impl.Runner{Id: 7, Name: "ann", Club: "hill", Born: 1990, Woman: true, Card: 815}
+	for _, list := range [][]impl.Runner{nil, {}, {ann}} {
+		for _, club := range []string{"", "Fen", "two words", "abcdefghijk", "fen"} {
+			if ids, ok := impl.ClubMembers(list, club); !ok || len(ids) != 0 {
 				t.Errorf("ClubMembers(%v, %q) = %v, %v", list, club, ids, ok)
 			}
 		}
+	}
+	if ids, ok := impl.ClubMembers([]impl.Runner{ann}, "hill"); !ok || !slices.Equal(ids, []int{7}) {
+		t.Errorf("the members of hill are %v, %v", ids, ok)
 	}
 }
 

@@ -413,3 +413,147 @@ func TestRunnerTextsReturnForAllArguments(t *testing.T) {
 		}
 	}
 }
+
+// useControls calls every function of chapter 6.
+func useControls(m impl.Map, list []impl.Control) {
+	impl.AreControls(m, list)
+	impl.ConfusableCodes(m, list)
+	impl.FreeCode(m, list)
+	for _, n := range append([]int{-1, 0, 1, 2, 9, 30, 31, 35, 36, 41, 55, 99, 100}, farNumbers...) {
+		impl.CellOfCode(m, list, n)
+		impl.CodeAt(m, list, n)
+		impl.CloseControls(m, list, n)
+		impl.NearestControl(m, list, n)
+		for _, c := range append(slices.Clone(list[:min(len(list), 12)]), impl.Control{Code: n, Cell: n}) {
+			impl.MoveControl(m, list, c.Code, n)
+			impl.MoveControl(m, list, n, c.Cell)
+			impl.RecodeControl(m, list, c.Code, n)
+			impl.RecodeControl(m, list, n, c.Code)
+		}
+	}
+}
+
+func TestControlFunctionsReturnForAllArguments(t *testing.T) {
+	far := []impl.Control{}
+	for _, n := range farNumbers {
+		far = append(far, impl.Control{Code: n, Cell: n}, impl.Control{Code: 31, Cell: n}, impl.Control{Code: n, Cell: 0})
+	}
+	lists := [][]impl.Control{nil, {}, far, slices.Repeat([]impl.Control{{Code: 31}}, 100000), slices.Repeat(far, 5000)}
+	for _, c := range far {
+		lists = append(lists, []impl.Control{c}, []impl.Control{{Code: 31, Cell: 1}, c}, []impl.Control{c, {Code: 31, Cell: 1}})
+	}
+	for _, m := range append(invalidMaps(), flatMap(3, 2), flatMap(1, 1), variedMap(6, 6, 3, 1)) {
+		for _, list := range lists {
+			useControls(m, list)
+			if valid := impl.IsMap(m) && len(list) == 0; impl.AreControls(m, list) != valid {
+				t.Errorf("AreControls of %d on %v", len(list), m)
+			}
+		}
+	}
+}
+
+func TestControlFunctionsModifyNothing(t *testing.T) {
+	beyond := impl.Control{Code: -1, Cell: -2}
+	for _, p := range placements() {
+		for _, spoilt := range []bool{false, true} {
+			all := append(slices.Clone(p.list), beyond, beyond)
+			if count := len(p.list); spoilt && count > 1 {
+				all[0], all[count-1] = all[count-1], all[0]
+			}
+			before := slices.Clone(all)
+			rise := append(slices.Clone(p.m.Rise), 77, 78)
+			cost := append(slices.Clone(p.m.Cost), 79, 80)
+			given := impl.Map{Width: p.m.Width, Height: p.m.Height, Rise: rise[:len(p.m.Rise)], Cost: cost[:len(p.m.Cost)]}
+			useControls(given, all[:len(p.list)])
+			if !slices.Equal(all, before) {
+				t.Errorf("%v changed to %v", before, all)
+			}
+			if !sameMap(given, p.m) || !slices.Equal(rise[len(p.m.Rise):], []int{77, 78}) || !slices.Equal(cost[len(p.m.Cost):], []int{79, 80}) {
+				t.Errorf("%v changed to %v", p.m, given)
+			}
+		}
+	}
+}
+
+// TestControlFunctionsReadNothingBeyondTheLength takes the first ones of ten Controls, after which
+// the others come in memory.
+func TestControlFunctionsReadNothingBeyondTheLength(t *testing.T) {
+	m := flatMap(6, 6)
+	for seed := range codeSets() {
+		all := controlsOn(m, 10, seed)
+		for length := range all {
+			list := all[:length]
+			short := slices.Clip(slices.Clone(list))
+			for _, c := range all {
+				cell, ok := impl.CellOfCode(m, list, c.Code)
+				if want, found := impl.CellOfCode(m, short, c.Code); cell != want || ok != found {
+					t.Errorf("the cell of %d in %v: %d, %v", c.Code, list, cell, ok)
+				}
+				code, ok := impl.CodeAt(m, list, c.Cell)
+				if want, found := impl.CodeAt(m, short, c.Cell); code != want || ok != found {
+					t.Errorf("the Code at %d in %v: %d, %v", c.Cell, list, code, ok)
+				}
+				code, ok = impl.NearestControl(m, list, c.Cell)
+				if want, found := impl.NearestControl(m, short, c.Cell); code != want || ok != found {
+					t.Errorf("the nearest to %d in %v: %d, %v", c.Cell, list, code, ok)
+				}
+				moved, ok := impl.MoveControl(m, list, all[0].Code, c.Cell)
+				if want, valid := impl.MoveControl(m, short, all[0].Code, c.Cell); !slices.Equal(moved, want) || ok != valid {
+					t.Errorf("%d of %v moved to %d: %v, %v", all[0].Code, list, c.Cell, moved, ok)
+				}
+				recoded, ok := impl.RecodeControl(m, list, all[0].Code, c.Code)
+				if want, valid := impl.RecodeControl(m, short, all[0].Code, c.Code); !slices.Equal(recoded, want) || ok != valid {
+					t.Errorf("%d of %v recoded to %d: %v, %v", all[0].Code, list, c.Code, recoded, ok)
+				}
+			}
+			pairs, _ := impl.CloseControls(m, list, 100)
+			mixed, _ := impl.ConfusableCodes(m, list)
+			want, _ := impl.ConfusableCodes(m, short)
+			free, _ := impl.FreeCode(m, list)
+			if len(pairs) != length*(length-1)/2 || !slices.Equal(mixed, want) || free != firstFree(short) || !impl.AreControls(m, list) {
+				t.Errorf("%v: %v, %v, %d", list, pairs, mixed, free)
+			}
+		}
+	}
+}
+
+func TestControlFunctionsGiveNewMemory(t *testing.T) {
+	for _, p := range placements() {
+		if len(p.list) == 0 {
+			continue
+		}
+		// The list has room, into which a function could write what it adds.
+		list := append(make([]impl.Control, 0, 20), p.list...)
+		first, last := list[0], list[len(list)-1]
+		for name, change := range map[string]func() ([]impl.Control, bool){
+			"MoveControl":               func() ([]impl.Control, bool) { return impl.MoveControl(p.m, list, first.Code, first.Cell) },
+			"RecodeControl to the same": func() ([]impl.Control, bool) { return impl.RecodeControl(p.m, list, last.Code, last.Code) },
+			"RecodeControl to the end":  func() ([]impl.Control, bool) { return impl.RecodeControl(p.m, list, first.Code, 99) },
+			"RecodeControl to the top":  func() ([]impl.Control, bool) { return impl.RecodeControl(p.m, list, last.Code, 31) },
+		} {
+			got, _ := change()
+			want := slices.Clone(got)
+			got = got[:cap(got)]
+			for i := range got {
+				got[i] = impl.Control{Code: -99, Cell: -99}
+			}
+			if again, _ := change(); !slices.Equal(again, want) || !slices.Equal(list, p.list) {
+				t.Errorf("%s shares memory with %v", name, p.list)
+			}
+			if beyond := list[len(list):cap(list)]; slices.ContainsFunc(beyond, func(c impl.Control) bool { return c != impl.Control{} }) {
+				t.Errorf("%s writes beyond the length of %v: %v", name, p.list, beyond)
+			}
+		}
+		for name, pairs := range map[string]func() ([][2]int, bool){
+			"CloseControls":   func() ([][2]int, bool) { return impl.CloseControls(p.m, list, 5) },
+			"ConfusableCodes": func() ([][2]int, bool) { return impl.ConfusableCodes(p.m, list) },
+		} {
+			got, _ := pairs()
+			want := slices.Clone(got)
+			clear(got[:cap(got)])
+			if again, _ := pairs(); !slices.Equal(again, want) {
+				t.Errorf("%s shares memory", name)
+			}
+		}
+	}
+}

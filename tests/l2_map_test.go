@@ -538,20 +538,7 @@ func TestParseMapOfChangedTexts(t *testing.T) {
 	}
 	row := "11 ## 13 20 99 ##\n"
 	for _, s := range []string{"10\n", "##\n", "10 ##\n", "10\n20\n", "12 34\n## 10\n", row, strings.Repeat(row, 6), strings.Repeat("##\n", 6)} {
-		check(s)
-		for at := range len(s) + 1 {
-			if at < len(s) {
-				check(s[:at] + s[at+1:])
-				check(s[:at])
-			}
-			for c := range 256 {
-				by := string([]byte{byte(c)})
-				check(s[:at] + by + s[at:])
-				if at < len(s) {
-					check(s[:at] + by + s[at+1:])
-				}
-			}
-		}
+		eachTextChangedInOnePlace(s, check)
 	}
 }
 

@@ -317,19 +317,7 @@ func TestParseFeatureOfChangedTexts(t *testing.T) {
 		}
 	}
 	for _, text := range []string{"44 upper wet pit side foot", "31 hill", "99 boulder side between", "30 north path side west"} {
-		for place := range len(text) + 1 {
-			for c := range 256 {
-				check(text[:place] + string([]byte{byte(c)}) + text[place:])
-				if place < len(text) {
-					check(text[:place] + string([]byte{byte(c)}) + text[place+1:])
-				}
-			}
-			check(text[:place])
-			check(text[place:])
-			if place < len(text) {
-				check(text[:place] + text[place+1:])
-			}
-		}
+		eachTextChangedInOnePlace(text, check)
 	}
 }
 

@@ -700,47 +700,13 @@ func TestParseRunnerOfTextsChangedInOnePlace(t *testing.T) {
 		"7 ann of hill 1990 w card 815", "9 bo of fen 2015 m", "999 abcdefghij of zzzzzzzzzz 2020 w card 9999", "1 a of z 1920 m card 1",
 		"10 of of of 2000 w", "100 card of card 1999 m card 10",
 	} {
-		for place := range len(text) + 1 {
-			for c := range 256 {
-				checkParsedRunner(t, text[:place]+string([]byte{byte(c)})+text[place:])
-				if place < len(text) {
-					checkParsedRunner(t, text[:place]+string([]byte{byte(c)})+text[place+1:])
-				}
-			}
-			checkParsedRunner(t, text[:place])
-			checkParsedRunner(t, text[place:])
-			if place < len(text) {
-				checkParsedRunner(t, text[:place]+text[place+1:])
-			}
-		}
+		eachTextChangedInOnePlace(text, func(changed string) { checkParsedRunner(t, changed) })
 	}
 }
 
-// TestParseRunnerOfChangedWords leaves out, doubles, swaps and replaces the words of a text.
 func TestParseRunnerOfChangedWords(t *testing.T) {
 	others := []string{"", "7", "0", "815", "1990", "ann", "of", "card", "w", "m", "10000", "2021", "abcdefghijk"}
 	for _, text := range []string{"7 ann of hill 1990 w card 815", "9 bo of fen 2015 m"} {
-		words := strings.Split(text, " ")
-		check := func(words []string) { checkParsedRunner(t, strings.Join(words, " ")) }
-		for i := range words {
-			check(slices.Delete(slices.Clone(words), i, i+1))
-			for j := range words {
-				swapped := slices.Clone(words)
-				swapped[i], swapped[j] = swapped[j], swapped[i]
-				check(swapped)
-				check(slices.Insert(slices.Clone(words), i, words[j]))
-				for _, other := range others {
-					replaced := slices.Clone(words)
-					replaced[i], replaced[j] = other, others[(i+j)%len(others)]
-					check(replaced)
-				}
-			}
-			for _, other := range others {
-				check(slices.Insert(slices.Clone(words), i, other))
-				replaced := slices.Clone(words)
-				replaced[i] = other
-				check(replaced)
-			}
-		}
+		eachTextWithChangedWords(text, others, func(changed string) { checkParsedRunner(t, changed) })
 	}
 }

@@ -557,3 +557,156 @@ func TestControlFunctionsGiveNewMemory(t *testing.T) {
 		}
 	}
 }
+
+// useClasses calls every function of chapter 7 that takes a list.
+func useClasses(list []impl.Class, runners []impl.Runner) {
+	impl.AreClasses(list)
+	impl.SharedCourses(list)
+	impl.AgesWithout(list, true)
+	impl.AgesWithout(list, false)
+	impl.FillClasses(list, runners)
+	for _, n := range append([]int{0, 1, 3, 19, 99, 100, 1990}, farNumbers...) {
+		impl.CourseOf(list, n)
+		for _, r := range append(slices.Clone(runners[:min(len(runners), 12)]), impl.Runner{Id: n, Name: "ann", Club: "hill", Born: n}) {
+			impl.ClassesFor(list, r)
+			impl.BestClass(list, r)
+			for _, c := range list[:min(len(list), 12)] {
+				impl.DoesAdmit(c, r)
+			}
+		}
+	}
+}
+
+func TestClassFunctionsReturnForAllArguments(t *testing.T) {
+	far := []impl.Class{}
+	for _, n := range farNumbers {
+		c := impl.Class{Id: n, Name: "a", Low: n, High: n, Women: true, Course: n, Most: n}
+		far = append(far, c, impl.Class{Id: 1, Name: "a", High: n, Men: true, Course: 1, Most: 1}, impl.Class{Id: 1, Name: "a", Low: n, High: 120, Men: true, Course: 1, Most: 1})
+	}
+	lists := [][]impl.Class{far, slices.Repeat(sampleClasses(8, 1), 20000), slices.Repeat(far, 5000)}
+	for _, c := range far {
+		lists = append(lists, []impl.Class{c}, append(sampleClasses(3, 1), c), append([]impl.Class{c}, sampleClasses(3, 1)...))
+	}
+	for _, list := range lists {
+		for _, runners := range [][]impl.Runner{nil, people(10), slices.Repeat(people(10), 20000)} {
+			useClasses(list, runners)
+			useClasses(sampleClasses(8, 2), runners)
+		}
+		if impl.AreClasses(list) {
+			t.Errorf("AreClasses of %d", len(list))
+		}
+	}
+}
+
+func TestClassFunctionsModifyNothing(t *testing.T) {
+	beyond := impl.Class{Id: -1, Name: "Beyond", Low: 7, High: 3}
+	nobody := impl.Runner{Id: -1, Name: "Nobody", Card: 77}
+	for count := range 11 {
+		for first := range count + 1 {
+			// The ages begin in no order, so that sorting the list itself would show.
+			all := append(sampleClasses(count, first), beyond, beyond)
+			all[0], all[first/2] = all[first/2], all[0]
+			runners := append(people(count), nobody, nobody)
+			before, peopleBefore := slices.Clone(all), slices.Clone(runners)
+			useClasses(all[:count], runners[:count])
+			if !slices.Equal(all, before) {
+				t.Errorf("%v changed to %v", before, all)
+			}
+			if !slices.Equal(runners, peopleBefore) {
+				t.Errorf("%v changed to %v", peopleBefore, runners)
+			}
+		}
+	}
+}
+
+// TestClassFunctionsReadNothingBeyondTheLength takes the first ones of eight Classes and of ten
+// Runners, after which the others come in memory.
+func TestClassFunctionsReadNothingBeyondTheLength(t *testing.T) {
+	for seed := range 10 {
+		all, everybody := sampleClasses(8, seed), people(10)
+		for length := range all {
+			list := all[:length]
+			short := slices.Clip(slices.Clone(list))
+			for _, c := range all {
+				course, ok := impl.CourseOf(list, c.Id)
+				if want, found := impl.CourseOf(short, c.Id); course != want || ok != found {
+					t.Errorf("the course of %d in %v: %d, %v", c.Id, list, course, ok)
+				}
+			}
+			for i, r := range everybody {
+				ids, _ := impl.ClassesFor(list, r)
+				wanted, _ := impl.ClassesFor(short, r)
+				best, ok := impl.BestClass(list, r)
+				if want, found := impl.BestClass(short, r); best != want || ok != found || !slices.Equal(ids, wanted) {
+					t.Errorf("the Classes for %v in %v: %v, %d", r, list, ids, best)
+				}
+				filled, _ := impl.FillClasses(list, everybody[:i])
+				if want, _ := impl.FillClasses(short, slices.Clip(slices.Clone(everybody[:i]))); !slices.Equal(filled, want) || len(filled) != i {
+					t.Errorf("%d Runners in %v: %v", i, list, filled)
+				}
+			}
+			shared, _ := impl.SharedCourses(list)
+			wanted, _ := impl.SharedCourses(short)
+			spans, _ := impl.AgesWithout(list, seed%2 == 0)
+			without, _ := impl.AgesWithout(short, seed%2 == 0)
+			if !slices.Equal(shared, wanted) || !slices.EqualFunc(spans, without, slices.Equal) || !impl.AreClasses(list) {
+				t.Errorf("%v: %v, %v", list, shared, spans)
+			}
+		}
+	}
+}
+
+func TestClassFunctionsGiveNewMemory(t *testing.T) {
+	for count := range 9 {
+		// The lists have room, into which a function could write.
+		list := append(make([]impl.Class, 0, 20), sampleClasses(count, count)...)
+		runners := append(make([]impl.Runner, 0, 20), people(10)...)
+		before, peopleBefore := slices.Clone(list[:20]), slices.Clone(runners[:20])
+		for name, ids := range map[string]func() ([]int, bool){
+			"ClassesFor":    func() ([]int, bool) { return impl.ClassesFor(list, runners[count]) },
+			"SharedCourses": func() ([]int, bool) { return impl.SharedCourses(list) },
+			"FillClasses":   func() ([]int, bool) { return impl.FillClasses(list, runners) },
+		} {
+			got, _ := ids()
+			want := slices.Clone(got)
+			spoil(got)
+			if again, _ := ids(); !slices.Equal(again, want) {
+				t.Errorf("%s shares memory", name)
+			}
+		}
+		for _, woman := range []bool{true, false} {
+			want, _ := impl.AgesWithout(list, woman)
+			got, _ := impl.AgesWithout(list, woman)
+			for i := range got {
+				spoil(got[i])
+				for j := i + 1; j < len(got); j++ {
+					if !slices.Equal(got[j], want[j]) {
+						t.Errorf("the spans %d and %d share memory", i, j)
+					}
+				}
+			}
+			clear(got[:cap(got)])
+			if again, _ := impl.AgesWithout(list, woman); !slices.EqualFunc(again, want, slices.Equal) {
+				t.Error("AgesWithout shares memory")
+			}
+		}
+		if !slices.Equal(list[:20], before) || !slices.Equal(runners[:20], peopleBefore) {
+			t.Errorf("%v changed to %v, or %v to %v", before, list[:20], peopleBefore, runners[:20])
+		}
+	}
+}
+
+func TestClassTextsReturnForAllArguments(t *testing.T) {
+	for _, s := range append(oddStrings(), strings.Repeat(" ", 5000), strings.Repeat("5 elite 18-40 w course 2 most 5", 1000), "5 elite 18-40 w course 2 most "+strings.Repeat("9", 5000),
+		"5 elite "+strings.Repeat("-", 3900)+" w course 2 most 5", strings.Repeat("-", 4000), strings.Repeat("wm ", 1333), strings.Repeat(" ", 7)) {
+		if c, ok := impl.ParseClass(s); ok || c != (impl.Class{}) {
+			t.Errorf("ParseClass of %d bytes = %v, %v", len(s), c, ok)
+		}
+		for _, n := range farNumbers {
+			c := impl.Class{Id: n, Name: s, Low: n, High: n, Men: true, Course: n, Most: n}
+			if text, ok := impl.ClassText(c); ok || text != "" || impl.IsClass(c) {
+				t.Errorf("ClassText = %q, %v", text, ok)
+			}
+		}
+	}
+}

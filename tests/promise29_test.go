@@ -710,3 +710,135 @@ func TestClassTextsReturnForAllArguments(t *testing.T) {
 		}
 	}
 }
+
+// useCourses calls every function of chapter 8 with each of the courses.
+func useCourses(m impl.Map, list []impl.Control, courses [][]int) {
+	for _, course := range courses {
+		impl.IsCourse(m, list, course)
+		impl.LegTimes(m, list, course)
+		impl.CourseTime(m, list, course)
+		impl.CourseClimb(m, list, course)
+		impl.CourseFaults(m, list, course)
+		impl.BackLegs(m, list, course)
+		impl.BestOrder(m, list, course)
+		impl.ReverseCourse(m, list, course)
+		for _, other := range courses {
+			impl.SharedLegs(m, list, course, other)
+		}
+	}
+}
+
+func TestCourseFunctionsReturnForAllArguments(t *testing.T) {
+	far := []impl.Control{}
+	courses := [][]int{nil, {}, {31, 41}, farNumbers, slices.Repeat([]int{31, 41}, 100000), make([]int, 8)}
+	for _, n := range farNumbers {
+		far = append(far, impl.Control{Code: n, Cell: n}, impl.Control{Code: 31, Cell: n}, impl.Control{Code: n, Cell: 0})
+		courses = append(courses, []int{n}, []int{n, n}, []int{31, n}, []int{n, 41, 31}, []int{31, 41, n, 31})
+	}
+	lists := [][]impl.Control{nil, {}, far, {{Code: 31, Cell: 0}, {Code: 41, Cell: 1}}, slices.Repeat([]impl.Control{{Code: 31}}, 100000)}
+	for _, c := range far {
+		lists = append(lists, []impl.Control{c}, []impl.Control{{Code: 31, Cell: 1}, c}, []impl.Control{c, {Code: 41, Cell: 1}})
+	}
+	for _, m := range append(invalidMaps(), flatMap(3, 2), flatMap(1, 1), variedMap(6, 6, 3, 1)) {
+		for i, list := range lists {
+			useCourses(m, list, courses)
+			if valid := impl.IsMap(m) && m.Width == 3 && i == 3; impl.IsCourse(m, list, courses[2]) != valid {
+				t.Errorf("IsCourse with %d Controls on %v: %v", len(list), m, !valid)
+			}
+		}
+	}
+}
+
+func TestCourseFunctionsModifyNothing(t *testing.T) {
+	for i, x := range terrains() {
+		codes := x.codes()
+		if len(codes) == 0 {
+			continue
+		}
+		all := append(slices.Clone(x.list), impl.Control{Code: -1, Cell: -2}, impl.Control{Code: -3, Cell: -4})
+		rise := append(slices.Clone(x.m.Rise), 77, 78)
+		cost := append(slices.Clone(x.m.Cost), 79, 80)
+		given := impl.Map{Width: x.m.Width, Height: x.m.Height, Rise: rise[:len(x.m.Rise)], Cost: cost[:len(x.m.Cost)]}
+		before, full, courses := slices.Clone(all), [][]int{}, [][]int{}
+		for _, length := range []int{2, 3, 5, 7, 8, 9} {
+			for _, once := range []bool{true, false} {
+				course := append(sampleCourse(codes, length, i, once), -5, -6)
+				full = append(full, course)
+				courses = append(courses, course[:length])
+			}
+		}
+		fullBefore := [][]int{}
+		for _, course := range full {
+			fullBefore = append(fullBefore, slices.Clone(course))
+		}
+		useCourses(given, all[:len(x.list)], courses)
+		if !slices.Equal(all, before) || !slices.EqualFunc(full, fullBefore, slices.Equal) {
+			t.Errorf("%v changed to %v, or %v to %v", before, all, fullBefore, full)
+		}
+		if !sameMap(given, x.m) || !slices.Equal(rise[len(x.m.Rise):], []int{77, 78}) || !slices.Equal(cost[len(x.m.Cost):], []int{79, 80}) {
+			t.Errorf("%v changed to %v", x.m, given)
+		}
+	}
+}
+
+// TestCourseFunctionsReadNothingBeyondTheLength takes the first Codes of longer courses and the
+// first ones of ten Controls, after which the others come in memory.
+func TestCourseFunctionsReadNothingBeyondTheLength(t *testing.T) {
+	m := flatMap(6, 6)
+	for seed := range codeSets() {
+		all := controlsOn(m, 10, seed)
+		for count := range all {
+			x := terrainOf(m, slices.Clip(slices.Clone(all[:count])))
+			inMemory := terrain{placed{m, all[:count]}, x.best}
+			codes := terrain{placed: placed{m, all}}.codes()
+			for length := range 10 {
+				// The Codes after the length are those of the course itself, in its order.
+				once := append(sampleCourse(codes, length, seed, true), codes...)
+				repeated := slices.Repeat(codes[:2], 10)
+				checkCourse(t, inMemory, once[:length])
+				checkCourse(t, inMemory, repeated[:length])
+				checkShared(t, inMemory, once[:length], repeated[:length])
+				checkShared(t, inMemory, repeated[:length], repeated[:7])
+			}
+		}
+	}
+}
+
+func TestCourseFunctionsGiveNewMemory(t *testing.T) {
+	for i, x := range terrains() {
+		codes := x.codes()
+		if len(codes) == 0 {
+			continue
+		}
+		length := 2 + i%6
+		for _, once := range []bool{true, false} {
+			// The course has room, into which a function could write.
+			course := append(make([]int, 0, 20), sampleCourse(codes, length, i, once)...)
+			before := slices.Clone(course[:20])
+			controls := slices.Clone(x.list)
+			for name, numbers := range map[string]func() ([]int, bool){
+				"LegTimes":      func() ([]int, bool) { return impl.LegTimes(x.m, x.list, course) },
+				"CourseFaults":  func() ([]int, bool) { return impl.CourseFaults(x.m, x.list, course) },
+				"BackLegs":      func() ([]int, bool) { return impl.BackLegs(x.m, x.list, course) },
+				"ReverseCourse": func() ([]int, bool) { return impl.ReverseCourse(x.m, x.list, course) },
+				"BestOrder": func() ([]int, bool) {
+					order, _, ok := impl.BestOrder(x.m, x.list, course)
+					return order, ok
+				},
+			} {
+				got, _ := numbers()
+				want := slices.Clone(got)
+				spoil(got)
+				if again, _ := numbers(); !slices.Equal(again, want) || !slices.Equal(course[:20], before) || !slices.Equal(x.list, controls) {
+					t.Errorf("%s shares memory with %v", name, before)
+				}
+			}
+			got, _ := impl.SharedLegs(x.m, x.list, course, course)
+			want := slices.Clone(got)
+			clear(got[:cap(got)])
+			if again, _ := impl.SharedLegs(x.m, x.list, course, course); !slices.Equal(again, want) || !slices.Equal(course[:20], before) {
+				t.Error("SharedLegs shares memory")
+			}
+		}
+	}
+}
